@@ -37,6 +37,21 @@ func Lower(s string) string {
 	return b.String()
 }
 
+// IsPlain tells whether s has no other bytes than PLAIN ones.
+func IsPlain(s string) bool {
+	for i := range len(s) {
+		if !inPlain(s[i]) {
+			return false
+		}
+	}
+	return true
+}
+
+// Trim answers s without the BLANKS ahead and behind. What it answers lies in s: who hands it on clones it.
+func Trim(s string) string {
+	return strings.Trim(s, blanks)
+}
+
 // Quote answers s between two `"`, so that Unquote reads it as it was.
 func Quote(s string) (string, api.Errno) {
 	if len(s) > api.MaxText {
@@ -46,7 +61,7 @@ func Quote(s string) (string, api.Errno) {
 	b.WriteByte('"')
 	for i := range len(s) {
 		c := s[i]
-		if !isPlain(c) {
+		if !inPlain(c) {
 			return "", api.ErrSyntax
 		}
 		if c == '"' || c == '\\' {
@@ -86,7 +101,7 @@ func Split(s string) ([]string, api.Errno) {
 	}
 	var parts []string
 	for _, piece := range pieces {
-		if part := trim(piece); part != "" {
+		if part := Trim(piece); part != "" {
 			// A copy: a piece shares its memory with s.
 			parts = append(parts, strings.Clone(part))
 		}
@@ -106,7 +121,7 @@ func Params(s string) (string, []api.Param, api.Errno) {
 	if !ok {
 		return "", nil, api.ErrSyntax
 	}
-	value := trim(pieces[0])
+	value := Trim(pieces[0])
 	if value == "" {
 		return "", nil, api.ErrSyntax
 	}
@@ -124,7 +139,7 @@ func Params(s string) (string, []api.Param, api.Errno) {
 func readParams(pieces []string) ([]api.Param, bool) {
 	var params []api.Param
 	for _, piece := range pieces {
-		text := trim(piece)
+		text := Trim(piece)
 		if text == "" {
 			continue
 		}
@@ -165,7 +180,7 @@ func unescape(s string) (string, bool) {
 	for i := range len(s) {
 		c := s[i]
 		switch {
-		case !isPlain(c):
+		case !inPlain(c):
 			return "", false
 		case counts:
 			b.WriteByte(c)
@@ -202,10 +217,6 @@ func cut(s string, sep byte) ([]string, bool) {
 	return append(pieces, s[start:]), !within
 }
 
-func trim(s string) string {
-	return strings.Trim(s, blanks)
-}
-
 func inToken(c byte) bool {
 	switch {
 	case 'a' <= c && c <= 'z', 'A' <= c && c <= 'Z', '0' <= c && c <= '9':
@@ -214,6 +225,6 @@ func inToken(c byte) bool {
 	return strings.IndexByte(signs, c) >= 0
 }
 
-func isPlain(c byte) bool {
+func inPlain(c byte) bool {
 	return 32 <= c && c <= 126 || c == 9
 }

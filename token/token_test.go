@@ -69,9 +69,23 @@ func TestLowerOfTexts(t *testing.T) {
 	}
 }
 
-// P4.
-
 func plain(c byte) bool { return c == 9 || c >= 32 && c <= 126 }
+
+func TestIsPlainOfEachByte(t *testing.T) {
+	for i := range 256 {
+		one := string([]byte{byte(i)})
+		for _, s := range []string{one, one + "a", "a" + one, "a" + one + "b"} {
+			if token.IsPlain(s) != plain(byte(i)) {
+				t.Errorf("IsPlain(%q) is not %v", s, plain(byte(i)))
+			}
+		}
+	}
+	if !token.IsPlain("") {
+		t.Error("the empty text has no other bytes than PLAIN ones")
+	}
+}
+
+// P4.
 
 type textCase struct {
 	in, out string
@@ -206,6 +220,22 @@ func TestUnquoteReadsWhatQuoteWrites(t *testing.T) {
 }
 
 // P5.
+
+func TestTrim(t *testing.T) {
+	for s, want := range map[string]string{
+		"":              "",
+		" \t ":          "",
+		"a":             "a",
+		"\t a \tb\t ":   "a \tb",
+		"\n a\r":        "\n a\r",
+		"\u00a0a\u00a0": "\u00a0a\u00a0",
+		" \xff\x00 ":    "\xff\x00",
+	} {
+		if got := token.Trim(s); got != want {
+			t.Errorf("Trim(%q): %q", s, got)
+		}
+	}
+}
 
 type splitCase struct {
 	in  string
