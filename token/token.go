@@ -8,8 +8,9 @@ import (
 )
 
 const (
-	signs  = "!#$%&'*+-.^_`|~"
-	blanks = " \t"
+	signs   = "!#$%&'*+-.^_`|~"
+	blanks  = " \t"
+	lineEnd = "\r\n"
 )
 
 // IsToken tells whether s is one or more of the bytes that a TOKEN is made of.
@@ -50,6 +51,19 @@ func IsPlain(s string) bool {
 // Trim answers s without the BLANKS ahead and behind. What it answers lies in s: who hands it on clones it.
 func Trim(s string) string {
 	return strings.Trim(s, blanks)
+}
+
+// CutLine answers the line with which s begins, without its end, and what stands behind that end. A line may have at most so many bytes. What it answers lies in s: who hands it on clones it.
+func CutLine(s string, most int) (line, behind string, err api.Errno) {
+	line, behind, found := strings.Cut(s, lineEnd)
+	switch {
+	case found && len(line) <= most:
+		return line, behind, api.OK
+	case !found && len(s) <= most+1:
+		// One byte more than a line may have: it may be the first one of its end.
+		return "", "", api.ErrShort
+	}
+	return "", "", api.ErrLarge
 }
 
 // Quote answers s between two `"`, so that Unquote reads it as it was.

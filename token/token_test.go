@@ -85,6 +85,34 @@ func TestIsPlainOfEachByte(t *testing.T) {
 	}
 }
 
+type lineCase struct {
+	in           string
+	line, behind string
+	err          api.Errno
+}
+
+func TestCutLine(t *testing.T) {
+	for _, c := range []lineCase{
+		{"\r\n", "", "", api.OK},
+		{"abc\r\n", "abc", "", api.OK},
+		{"abc\r\nd\r\n\r\nefghi", "abc", "d\r\n\r\nefghi", api.OK},
+		{"\r\r\n", "\r", "", api.OK},
+		{"\n\r\n", "\n", "", api.OK},
+		{"abcd\r\n", "", "", api.ErrLarge},
+		{"abc\r\r\n", "", "", api.ErrLarge},
+		{"", "", "", api.ErrShort},
+		{"a\n", "", "", api.ErrShort},
+		{"abc\r", "", "", api.ErrShort},
+		{"abcd", "", "", api.ErrShort},
+		{"abcd\r", "", "", api.ErrLarge},
+		{"abcde", "", "", api.ErrLarge},
+	} {
+		if line, behind, e := token.CutLine(c.in, 3); line != c.line || behind != c.behind || e != c.err {
+			t.Errorf("CutLine(%q): %q %q %d, not %q %q %d", c.in, line, behind, e, c.line, c.behind, c.err)
+		}
+	}
+}
+
 // P4.
 
 type textCase struct {
