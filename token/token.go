@@ -104,6 +104,16 @@ func Unquote(s string) (string, api.Errno) {
 	return text, api.OK
 }
 
+// ReadValue answers the value that s tells, as a TOKEN or as what Unquote can read, and whether it tells one.
+func ReadValue(s string) (string, bool) {
+	if IsToken(s) {
+		// A copy: s was handed in.
+		return strings.Clone(s), true
+	}
+	value, err := Unquote(s)
+	return value, err == api.OK
+}
+
 // Split answers the parts of s between its commas.
 func Split(s string) ([]string, api.Errno) {
 	if len(s) > api.MaxText {
@@ -172,19 +182,11 @@ func readParam(s string) (api.Param, bool) {
 	if !found || !IsToken(name) {
 		return api.Param{}, false
 	}
-	value, ok := readValue(text)
+	value, ok := ReadValue(text)
 	if !ok {
 		return api.Param{}, false
 	}
 	return api.Param{Name: Lower(name), Value: value}, true
-}
-
-func readValue(s string) (string, bool) {
-	if IsToken(s) {
-		return strings.Clone(s), true
-	}
-	value, err := Unquote(s)
-	return value, err == api.OK
 }
 
 // unescape answers s without the `\`s that count; not ok, if s can't stand between two `"`.

@@ -232,6 +232,43 @@ func TestUnquoteLimit(t *testing.T) {
 	})
 }
 
+func TestReadValue(t *testing.T) {
+	a := strings.Repeat("a", 1000)
+	for s, want := range map[string]string{
+		"a":               "a",
+		"A-b":             "A-b",
+		tokenBytes:        tokenBytes,
+		a + a:             a + a,
+		`""`:              "",
+		`"a b"`:           "a b",
+		`"\"\\\c, ="`:     `"\c, =`,
+		"\"\t\"":          "\t",
+		`"` + a + `"`:     a,
+		`"\` + a + `"`:    a,
+		`"` + a[1:] + `"`: a[1:],
+	} {
+		if got, ok := token.ReadValue(s); got != want || !ok {
+			t.Errorf("ReadValue(%.60q): %.60q %v", s, got, ok)
+		}
+	}
+	for _, s := range []string{"", " ", "a b", " a", "a ", "a=b", "a,b", `"`, `"a`, `a"`, `"a"b`, `b"a"`, `"a""b"`, `"a\"`, "\"\n\"", "\u00e4", `"` + a + `a"`} {
+		if got, ok := token.ReadValue(s); got != "" || ok {
+			t.Errorf("ReadValue(%.60q): %.60q %v", s, got, ok)
+		}
+	}
+}
+
+func TestReadValueAnswersACopy(t *testing.T) {
+	for _, s := range []string{"abc", `"abc"`} {
+		b := []byte(s)
+		got, _ := token.ReadValue(borrowed(b))
+		clear(b)
+		if got != "abc" {
+			t.Errorf("%q: what was read of it lies in it", s)
+		}
+	}
+}
+
 func TestUnquoteReadsWhatQuoteWrites(t *testing.T) {
 	for s := range texts("a\"\\ \t,\n", 5) {
 		quoted, e := token.Quote(s)
