@@ -360,3 +360,23 @@ func TestParseNumbersOfOtherBytes(t *testing.T) {
 		"Sat, 05 Nov 1994 32:49:37 GMT", // a day less, 24 hours more
 	)
 }
+
+// Of.
+
+func TestOf(t *testing.T) {
+	const text = "Sun, 06 Nov 1994 08:49:37 GMT"
+	l := []api.Field{{Name: "Date", Value: text}, {Name: "A", Value: "x"}, {Name: "B", Value: text}, {Name: "b", Value: text}, {Name: "C"}}
+	for _, name := range []string{"Date", "date", "DATE"} {
+		if n, ok := date.Of(l, name); n != 784111777 || !ok {
+			t.Errorf("%s: %d %v", name, n, ok)
+		}
+	}
+	for _, name := range []string{"A", "B", "C", "D", "", text, strings.Repeat("x", 1<<16)} {
+		if n, ok := date.Of(l, name); n != 0 || ok {
+			t.Errorf("%.40s: %d %v", name, n, ok)
+		}
+	}
+	if n, ok := date.Of(nil, "Date"); n != 0 || ok {
+		t.Errorf("no fields: %d %v", n, ok)
+	}
+}
